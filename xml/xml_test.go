@@ -201,13 +201,10 @@ func TestDeclaration(t *testing.T) {
 		wantFed(t, "<a/>"+s, api.ErrBarred, begin("a"), end("a"))
 		wantFed(t, s+"x<", api.ErrXml)
 	}
-	for _, s := range []string{"<?xml?>", "<?xmlx ?>", "<?XML ?>", "<?xm ?>", "<? xml ?>", "<?xml >", "<?xml ? >", "<?xml version='1.0'>", "<?xml\u00a0?>", "<?xml\v?>", "<?>", "<??>", "<?y?>", "<?xml>"} {
-		if strings.Contains(s, "\v") {
-			wantFed(t, s, api.ErrXml)
-			continue
-		}
+	for _, s := range []string{"<?xml?>", "<?xmlx ?>", "<?XML ?>", "<?xm ?>", "<? xml ?>", "<?xml >", "<?xml ? >", "<?xml version='1.0'>", "<?xml\u00a0?>", "<?>", "<??>", "<?y?>", "<?xml>"} {
 		wantFed(t, s, api.ErrBarred)
 	}
+	wantFed(t, "<?xml\v?>", api.ErrXml)
 	wantFed(t, "<?xml \x00?>", api.ErrXml)
 	wantFed(t, "<?xml \xff?>", api.ErrXml)
 	wantFed(t, "<?xml version='1.0?>", api.OK)
@@ -255,12 +252,8 @@ func TestWrongBeginnings(t *testing.T) {
 		"<>", "< >", "< a>", "<9>", "<->", "<.a>", "<:a>", "<\u00e9>", "<a\u00e9>", "<a&>", "<a;>", "<" + name + ">", "<a<>", "<<a>", "<a<b>", "<=>", "<a=>", "<a='1'>", "<a'1'>", "<'a'>", "<a\"\">",
 		"<a b>", "<a b=>", "<a b= >", "<a b=1>", "<a ='1'>", "<a '1'>", "<a b=='1'>", "<a b='1''2'>", "<a b='1'c='2'>", "<a b='1'\"2\">", "<a b='1',c='2'>", "<a b='1'/c='2'>", "<a b b='1'>", "<a 9='1'>",
 		"<a " + name + "='1'>", "<a b='<'>", "<a b='&'>", "<a b='&x;'>", "<a b='&#60;'>", "<a b='1&lt'>", "<a b='\x01'>", "<a b='\xff'>", "<a \x0b b='1'>", "<a\u00a0b='1'>", "<a\x00>", "<\xff>",
-		"</>", "</ >", "< />", "<//>", "<a//>", "<a/ >", "<a/ b='1'>", "<a / >", "<a/b>", "<a b='1'//>", "<a b/>", "<a b='1' />x</a b='1'>",
+		"</>", "</ >", "< />", "<//>", "<a//>", "<a/ >", "<a/ b='1'>", "<a / >", "<a/b>", "<a b='1'//>", "<a b/>",
 	} {
-		if strings.HasPrefix(s, "<a b='1' />x") {
-			wantFed(t, s, api.ErrXml, begin("a", "b", "1"), end("a"))
-			continue
-		}
 		wantFed(t, s, api.ErrXml)
 		wantFed(t, "<z>"+s, api.ErrXml, begin("z"))
 	}
