@@ -73,17 +73,21 @@ func TestNew(t *testing.T) {
 	wantState(t, p, 0, 0)
 }
 
-// P1, P3.1
+// P1, P3.1, P3.3: Feed has an error, and nothing breaks a parser that is nil, a Feed neither.
 func TestNilParser(t *testing.T) {
 	var p *Parser
-	for _, b := range [][]byte{nil, []byte("<a>")} {
+	wantNil := func() {
+		wantState(t, p, 0, 0)
+		if p.Broken() != api.OK || p.Fork() != nil {
+			t.Error(p.Broken(), p.Fork())
+		}
+	}
+	wantNil()
+	for _, b := range [][]byte{nil, []byte("<a>"), []byte("<!>")} {
 		if l, e := p.Feed(b); l != nil || e != api.ErrNil {
 			t.Error(l, e)
 		}
-	}
-	wantState(t, p, 0, 0)
-	if p.Broken() != api.ErrNil || p.Fork() != nil {
-		t.Error(p.Broken(), p.Fork())
+		wantNil()
 	}
 }
 
