@@ -1,6 +1,9 @@
 package node
 
-import "heliograph/api"
+import (
+	"heliograph/api"
+	"heliograph/names"
+)
 
 // fresh is the same node with lists of its own, so that none of what is answered lies in what was handed in.
 func fresh(n api.Node) api.Node {
@@ -15,7 +18,7 @@ func Subscribe(n api.Node, jid string, depth int) (api.Node, api.Cond) {
 	role := Role(n, jid)
 	sub, has := Sub(n, jid)
 	switch {
-	case !Right(n) || !isAddress(jid) || !isDepth(depth):
+	case !Right(n) || !names.Address(jid) || !isDepth(depth):
 		return refuse(api.BadRequest)
 	case role == api.Outcast:
 		return refuse(api.Forbidden)
@@ -77,7 +80,7 @@ func Affiliate(n api.Node, by, jid string, r api.Role) (api.Node, api.Cond) {
 		return refuse(api.BadRequest)
 	case Role(n, by) != api.Owner:
 		return refuse(api.Forbidden)
-	case !isAddress(jid) || !isRole(r):
+	case !names.Address(jid) || !isRole(r):
 		return refuse(api.BadRequest)
 	}
 	affs := affiliated(n.Affs, api.Aff{Jid: jid, Role: r})
@@ -107,7 +110,7 @@ func Publish(n api.Node, by string, item, body string) (api.Node, api.Cond) {
 	if c := barred(n, by, api.Publisher); c != api.NoCond {
 		return refuse(c)
 	}
-	if !isName(item) || !isBody(body) {
+	if !names.Name(item) || !isBody(body) {
 		return refuse(api.BadRequest)
 	}
 	n = fresh(n)

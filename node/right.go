@@ -2,37 +2,17 @@ package node
 
 import (
 	"heliograph/api"
-	"heliograph/jid"
+	"heliograph/names"
 	"heliograph/text"
 )
 
-const (
-	maxName  = 24  // bytes of a name of a node or an item
-	maxDepth = 255 // of a Sub
-)
+// maxDepth is that of a Sub.
+const maxDepth = 255
 
 // Right tells whether a node is right.
 func Right(n api.Node) bool {
-	return isName(n.Name) && isAccess(n.Access) && isMax(n.Max, n.Collection) && (n.Parent == "" || isName(n.Parent)) &&
+	return names.Name(n.Name) && isAccess(n.Access) && isMax(n.Max, n.Collection) && (n.Parent == "" || names.Name(n.Parent)) &&
 		rightAffs(n.Affs) && rightSubs(n.Subs) && rightItems(n.Items, n.Max)
-}
-
-func isName(s string) bool {
-	for i := range len(s) {
-		if !isNameByte(s[i]) {
-			return false
-		}
-	}
-	return s != "" && len(s) <= maxName
-}
-
-func isNameByte(c byte) bool {
-	return 'a' <= c && c <= 'z' || '0' <= c && c <= '9' || c == '-'
-}
-
-func isAddress(s string) bool {
-	j, errno := jid.Parse(s)
-	return errno == api.OK && j.Resource == "" && j == jid.Normal(j)
 }
 
 func isAccess(a api.Access) bool { return a <= api.Whitelist }
@@ -56,7 +36,7 @@ func rightAffs(l []api.Aff) bool {
 		return false
 	}
 	for _, a := range l {
-		if !isAddress(a.Jid) || !isRole(a.Role) || a.Role == api.NoRole {
+		if !names.Address(a.Jid) || !isRole(a.Role) || a.Role == api.NoRole {
 			return false
 		}
 	}
@@ -77,7 +57,7 @@ func rightSubs(l []api.Sub) bool {
 		return false
 	}
 	for _, s := range l {
-		if !isAddress(s.Jid) || !isDepth(s.Depth) {
+		if !names.Address(s.Jid) || !isDepth(s.Depth) {
 			return false
 		}
 	}
@@ -89,7 +69,7 @@ func rightItems(l []api.Item, most int) bool {
 		return false
 	}
 	for i, x := range l {
-		if _, twice := first(l[:i], itemKey, x.Id); twice || !isName(x.Id) || !isAddress(x.Publisher) || !isBody(x.Text) {
+		if _, twice := first(l[:i], itemKey, x.Id); twice || !names.Name(x.Id) || !names.Address(x.Publisher) || !isBody(x.Text) {
 			return false
 		}
 	}
